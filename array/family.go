@@ -21,7 +21,7 @@ type family interface {
 	read(l *look, n *node, r int) api.Value
 }
 
-// anyRows is asked of parts of which no number of rows is asked.
+// anyRows is how many rows a part must have of which no number is asked; a Length below 0 is told later.
 const anyRows = math.MinInt
 
 // familyOf tells how the arrays of a type lie.
@@ -54,7 +54,7 @@ func familyOf(t api.Type) family {
 // isSigned tells whether the numbers of a kind may be below 0.
 func isSigned(k int) bool { return k >= api.Int8 && k <= api.Int64 }
 
-// plain is what most families have in common: of no part a number of rows is asked, and nothing but the buffers' sizes.
+// plain is what most families have in common: any bytes will do, if there are enough of them.
 type plain struct{}
 
 func (plain) wrong(*look, *node) (api.Errno, int) { return api.OK, 0 }
