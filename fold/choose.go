@@ -17,9 +17,14 @@ type extreme struct {
 
 func (x *extreme) take(v api.Value) {
 	x.note(v)
-	if !v.Null {
-		x.best = append(x.best, v)
+	if v.Null {
+		return
 	}
+	// However many rows are named, few wait at a time.
+	if len(x.best) == api.MaxRows {
+		x.settle()
+	}
+	x.best = append(x.best, v)
 }
 
 // settle lets the best one alone stay.
