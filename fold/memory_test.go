@@ -2,6 +2,7 @@ package fold
 
 import (
 	"reflect"
+	"runtime"
 	"slices"
 	"testing"
 	"unsafe"
@@ -124,10 +125,12 @@ func TestMemory(t *testing.T) {
 		}
 		y := o.Copy()
 		rooms := slices.Concat(ofField(f), ofData(d), []room{roomOf(rows)})
+		var kept []api.Value // none may be let go as long as rooms are held against each other: another list might lie in its place
 		for _, a := range []*Fold{x, o, y} {
 			held := roomsOf(reflect.ValueOf(a))
 			v, _ := a.Value()
 			w, _ := a.Value()
+			kept = append(kept, v, w)
 			told := slices.Concat(ofValue(v), ofValue(w))
 			if !apart(held, rooms) || !apart(told, slices.Concat(rooms, held)) {
 				t.Fatalf("operation %d: two lists share memory", op)
@@ -137,6 +140,7 @@ func TestMemory(t *testing.T) {
 		if !apart(slices.Concat(ofField(f1), ofField(f2)), rooms) {
 			t.Fatalf("operation %d: fields share memory", op)
 		}
+		runtime.KeepAlive([]any{x, o, y, kept, f1, f2})
 		if lies(copyOf(d)) != lies(was) || !reflect.DeepEqual(copyOfField(f), fieldWas) || !slices.Equal(rows, rowsWere) {
 			t.Fatalf("operation %d: what was handed in is changed", op)
 		}
