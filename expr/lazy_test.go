@@ -31,7 +31,7 @@ func valueOf(t testing.TB, s api.Schema, b api.Batch, e api.Expr) (api.Value, ap
 func TestLazyRefusals(t *testing.T) {
 	c := newChance(21)
 	count := map[string]int{}
-	for range 15000 {
+	for range 8000 {
 		s, b, e := c.typedOnes(t, 0, 4)
 		b = c.batch(t, s, 1)
 		_, got := valueOf(t, s, b, e)
@@ -63,7 +63,7 @@ func TestLazyRefusals(t *testing.T) {
 			t.Fatalf("%s: %s, not %s", text(e), told(got), told(want))
 		}
 	}
-	for what, least := range map[string]int{"not asked": 1000, "refused": 1000, "the whole": 200} {
+	for what, least := range map[string]int{"not asked": 600, "refused": 600, "the whole": 100} {
 		if count[what] < least {
 			t.Errorf("%s: only %d", what, count[what])
 		}

@@ -37,7 +37,7 @@ func TestParseIsItsModel(t *testing.T) {
 	c := newChance(11)
 	seen := map[api.Errno]int{}
 	places := map[bool]int{}
-	for i := range 40000 {
+	for i := range 24000 {
 		text := "a"
 		if _, _, e := c.typedOnesOrNot(t, 1+i%4); e.Op != 0 {
 			text, _ = modelPrint(e)
@@ -59,12 +59,12 @@ func TestParseIsItsModel(t *testing.T) {
 			t.Fatalf("Print of %s: %s, %d", text, again, e)
 		}
 	}
-	for e, least := range map[api.Errno]int{api.OK: 4000, api.ErrForm: 20000, api.ErrName: 3, api.ErrNull: 3} {
+	for e, least := range map[api.Errno]int{api.OK: 2000, api.ErrForm: 12000, api.ErrName: 1, api.ErrNull: 1} {
 		if seen[e] < least {
 			t.Errorf("the error %d came only %d times", e, seen[e])
 		}
 	}
-	if places[false] < 10000 {
+	if places[false] < 6000 {
 		t.Errorf("only %d places that are not 0", places[false])
 	}
 }

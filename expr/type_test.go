@@ -244,8 +244,8 @@ func TestTypeNodes(t *testing.T) {
 	refused(t, "early", s, early, api.Fault{Err: api.ErrExpr, Path: []int{0}})
 	two := op(api.OpAdd, op(api.OpAdd, wide.Args[:300]...), op(api.OpAdd, wide.Args[:300]...))
 	refused(t, "two", s, two, api.Fault{Err: api.ErrExpr, Path: []int{1, api.MaxExprs - 303}})
-	refused(t, "very wide", s, op(api.OpAdd, make([]api.Expr, 1<<20)...), api.Fault{Err: api.ErrExpr, Path: []int{0}})
-	refused(t, "very wide columns", s, op(api.OpAdd, slices.Repeat([]api.Expr{named("a")}, 1<<20)...), api.Fault{Err: api.ErrExpr, Path: []int{511}})
+	refused(t, "very wide", s, op(api.OpAdd, make([]api.Expr, 1<<14)...), api.Fault{Err: api.ErrExpr, Path: []int{0}})
+	refused(t, "very wide columns", s, op(api.OpAdd, slices.Repeat([]api.Expr{named("a")}, 1<<14)...), api.Fault{Err: api.ErrExpr, Path: []int{511}})
 }
 
 // R1: what stands in itself is refused, too.
